@@ -108,10 +108,10 @@ func TestWeight(t *testing.T) {
 		{x.e, "1152"},     // 768, and 384
 		{x.f, "1177"},     // 793, and 384
 		{x.k, "1177"},
-		{x.fk, "1305"},    // 793, and of 10 wins 512
-		{x.h, "18611"},    // 1152, and 15872, and of 1 win 1587.2
-		{x.up, "8985"},    // 1305, and 5120, and of 5 wins 2560
-		{x.root, "0"},     // again, with what was kept
+		{x.fk, "1305"}, // 793, and of 10 wins 512
+		{x.h, "18611"}, // 1152, and 15872, and of 1 win 1587.2
+		{x.up, "8985"}, // 1305, and 5120, and of 5 wins 2560
+		{x.root, "0"},  // again, with what was kept
 		{x.up, "8985"},
 		{x.beside, "607"},
 		{tipset.Genesis(), "0"},
